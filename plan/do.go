@@ -18,11 +18,8 @@ func Do(l []api.File, s api.Step) ([]api.File, bool) {
 	if i := find(own, place{s.Path, dir}); i >= 0 {
 		own = slices.Delete(own, i, i+1)
 	}
-	switch s.Kind {
-	case api.StepMkdir:
-		own = append(own, api.File{Path: s.Path, Dir: true})
-	case api.StepPut:
-		own = append(own, api.File{Path: s.Path, Digest: s.Digest})
+	if s.Kind == api.StepMkdir || s.Kind == api.StepPut {
+		own = append(own, api.File{Path: s.Path, Dir: dir, Digest: s.Digest})
 	}
 	slices.SortStableFunc(own, image.Compare)
 	return own, true

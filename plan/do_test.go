@@ -91,7 +91,7 @@ func TestRmdirNot(t *testing.T) {
 	refuses(t, files("a"), rmdir("a"))
 }
 
-// 16.1, StepMkdir: where nothing is, in the place of its path; it has no digest.
+// 16.1, StepMkdir: where nothing is, in the place of its path.
 func TestMkdir(t *testing.T) {
 	does(t, nil, mkdir("a"), "a/")
 	does(t, grown(), mkdir("b"), "a=1", "b/", "d/", "d/e/", "d/e/f=2", "d/x", "d/y=3", "d!/", "none/", "nones")
@@ -100,7 +100,37 @@ func TestMkdir(t *testing.T) {
 	does(t, grown(), mkdir("d!/!"), "a=1", "d/", "d/e/", "d/e/f=2", "d/x", "d/y=3", "d!/", "d!/!/", "none/", "nones")
 	does(t, grown(), mkdir("D"), "D/", "a=1", "d/", "d/e/", "d/e/f=2", "d/x", "d/y=3", "d!/", "none/", "nones")
 	does(t, grown(), mkdir("~"), "a=1", "d/", "d/e/", "d/e/f=2", "d/x", "d/y=3", "d!/", "none/", "nones", "~/")
-	does(t, nil, api.Step{Kind: 3, Path: "a", Digest: "1"}, "a/")
+}
+
+// 16.1, StepMkdir and StepPut: what comes has the step's path and digest, a folder as well as a file, and no number and no size.
+func TestWhatComes(t *testing.T) {
+	for _, kind := range []int{3, 4} {
+		for _, digest := range []string{"", "d", "1", "\x00", strings.Repeat("\xff\x00", 16), strings.Repeat("d", 1000)} {
+			for _, path := range []string{"a", "d/a", "d/e/a", "~"} {
+				l := files("d/", "d/e/", "d/e/f=2", "d/x")
+				if path == "a" {
+					l = nil
+				}
+				got, is := done(t, l, api.Step{Kind: kind, Path: path, Digest: digest})
+				want := api.File{Path: path, Dir: kind == 3, Digest: digest}
+				if f, _ := image.Find(got, path); !is || f != want || len(got) != len(l)+1 {
+					t.Errorf("kind %d, %q, %q: %v, %t", kind, path, digest, got, is)
+				}
+			}
+		}
+	}
+}
+
+// 16.1: of a folder with a digest what may be done is the same, and it keeps that one.
+func TestFolderWithDigest(t *testing.T) {
+	l := files("a/=1", "b=2")
+	does(t, l, put("a/x", "3"), "a/=1", "a/x=3", "b=2")
+	does(t, l, api.Step{Kind: 3, Path: "a/d", Digest: "4"}, "a/=1", "a/d/=4", "b=2")
+	does(t, l, rmdir("a"), "b=2")
+	does(t, l, remove("b"), "a/=1")
+	refuses(t, l, api.Step{Kind: 3, Path: "a", Digest: "5"})
+	refuses(t, l, api.Step{Kind: 3, Path: "b", Digest: "5"})
+	refuses(t, l, put("a", "1"))
 }
 
 // 16.1, StepMkdir: where a file is, where a folder is.

@@ -159,7 +159,7 @@ func doneOf(l []api.File, s api.Step) ([]api.File, bool) {
 	}
 	switch s.Kind {
 	case 3:
-		all = append(all, api.File{Path: s.Path, Dir: true})
+		all = append(all, api.File{Path: s.Path, Dir: true, Digest: s.Digest})
 	case 4:
 		all = append(all, api.File{Path: s.Path, Digest: s.Digest})
 	}
